@@ -20,7 +20,7 @@ type divisor uint32
 // ieee is the divisor of IEEE 802.3.
 const ieee divisor = 0xEDB88320
 
-// table is what each byte leaves of an empty register. It is filled when it is first asked for, and built sees to it that this is done once.
+// table is what each byte leaves of an empty register. It is filled when it is first asked for, and built sees to it that this is done once. Sums are worked out without it, so that none hangs on what is kept here: Entry alone asks it.
 var (
 	table [1 << byteBits]uint32
 	built sync.Once

@@ -58,9 +58,8 @@ func times(many int, thing func(uint32) uint32, v uint32) uint32 {
 	return v
 }
 
-// plain is the checksum bit by bit, as the chapter's terms word it.
-func plain(b []byte) uint32 {
-	register := uint32(0xFFFFFFFF)
+// through is what bytes leave of a register, bit by bit, as the chapter's terms word it.
+func through(register uint32, b []byte) uint32 {
 	for _, x := range b {
 		for i := range 8 {
 			carry := uint32(x)>>i&1 ^ register&1
@@ -70,8 +69,11 @@ func plain(b []byte) uint32 {
 			}
 		}
 	}
-	return ^register
+	return register
 }
+
+// plain is the checksum as the chapter's terms word it.
+func plain(b []byte) uint32 { return ^through(0xFFFFFFFF, b) }
 
 // forged is b with four more bytes, by which it has the sum.
 func forged(b []byte, sum uint32) []byte {

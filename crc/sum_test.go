@@ -5,24 +5,10 @@ import (
 	"hash/crc32"
 	"slices"
 	"strings"
-	"sync"
 	"testing"
 
 	"quadrat/crc"
 )
-
-// The first call of all builds the table: here several come at once.
-func TestSumsAtOnce(t *testing.T) {
-	var all sync.WaitGroup
-	sums := make([]uint32, 16)
-	for i := range sums {
-		all.Go(func() { sums[i] = crc.Of([]byte("123456789")) })
-	}
-	all.Wait()
-	for _, sum := range sums {
-		same(t, "Of", sum, 0xCBF43926)
-	}
-}
 
 func TestOfKnownSums(t *testing.T) {
 	for _, c := range []struct {
